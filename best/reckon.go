@@ -9,7 +9,7 @@ import (
 	"tidehall/set"
 )
 
-// reckoner answers what tells the scores of places that are free of a set of midplanes. It does not ask score of each place, which goes over all that one takes, and would need minutes for all places of a great shape on a great machine: a free place has the score that all of its Size and Torus have with nothing taken, less what its midplanes' own scores lose by what is.
+// reckoner answers what tells the scores of places that are free of a set of midplanes. It does not ask score of each place, which goes over all that one takes, and would need more than a minute for all places of a great shape on the greatest machine: a free place has the score that all of its Size and Torus have with nothing taken, less what its midplanes' own scores lose by what is.
 func reckoner(d api.Dims, mids api.Set) (func(p api.Place) (int, api.Errno), api.Errno) {
 	n, e := pos.Many(d)
 	if e != api.OK {
